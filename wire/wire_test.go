@@ -12,7 +12,7 @@ import (
 	"sluiceway/api"
 )
 
-// examples have bytes that another program wrote out, those of the chapter ahead.
+// examples have their bytes written out, those of the chapter ahead; another program that follows the chapter writes the same.
 func examples() []struct {
 	m api.Msg
 	b string
