@@ -5,6 +5,7 @@ import (
 	"strings"
 
 	"sluiceway/api"
+	"sluiceway/fresh"
 	"sluiceway/scan"
 )
 
@@ -47,7 +48,7 @@ func Read(s string) (api.Lock, api.Errno) {
 		l := api.Lock{Kind: kindOf(text.Letter())}
 		switch l.Kind {
 		case api.LSig, api.LPre:
-			l.Term = freshTerm(api.Term(text.Term()))
+			l.Term = fresh.Term(api.Term(text.Term()))
 		case api.LAfter, api.LOlder:
 			l.N = int(text.Number(';', maxN))
 		case api.LAll, api.LAny:
