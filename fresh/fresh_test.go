@@ -102,3 +102,65 @@ func TestNothing(t *testing.T) {
 		t.Error("something out of nothing")
 	}
 }
+
+// deepLock has so many parts, one within the other.
+func deepLock(parts int) api.Lock {
+	l := api.Lock{Kind: api.LAfter, N: 5}
+	for range parts - 1 {
+		l = api.Lock{Kind: api.LAny, Kids: []api.Lock{l}}
+	}
+	return l
+}
+
+// withinItself has so many kids behind some others, each of which has all of these as kids.
+func withinItself(others, kids int) api.Lock {
+	l := make([]api.Lock, others+kids)
+	for i := range l {
+		l[i] = api.Lock{Kind: api.LAny, Term: "odd", N: 9}
+		if i >= others {
+			l[i].Kids = l
+		}
+	}
+	return l[others]
+}
+
+// doubled has 2^n parts in all; each list stands in two others.
+func doubled(n int) api.Lock {
+	l := api.Lock{Kind: api.LAny}
+	for range n {
+		l = api.Lock{Kind: api.LAny, Kids: []api.Lock{l, l}}
+	}
+	return l
+}
+
+// TestDeepLock: as deep as may be, a lock is told whole.
+func TestDeepLock(t *testing.T) {
+	l := fresh.Lock(deepLock(1 << 16))
+	for range 1<<16 - 1 {
+		if l.Kind != api.LAny || l.Term != "" || l.N != 0 || len(l.Kids) != 1 {
+			t.Fatalf("%d, %q, %d, %d kids", l.Kind, l.Term, l.N, len(l.Kids))
+		}
+		l = l.Kids[0]
+	}
+	if l.Kind != api.LAfter || l.N != 5 || l.Kids != nil {
+		t.Errorf("%+v", l)
+	}
+}
+
+// TestEndless: a lock without an end, or with more parts than may be given, is told in a way that ends, with what it has besides its kids.
+func TestEndless(t *testing.T) {
+	for name, l := range map[string]api.Lock{
+		"itself": withinItself(0, 1), "two": withinItself(0, 2), "eight": withinItself(0, 8), "many": withinItself(0, 1000), "the last of many": withinItself(100000, 1), "very deep": deepLock(1<<16 + 1), "doubled": doubled(60),
+	} {
+		want := api.Lock{Kind: l.Kind, Term: l.Term, N: l.N, Kids: []api.Lock{{}}}
+		above := api.Lock{Kind: api.LAll, Kids: []api.Lock{oneLock, l}}
+		for _, x := range []api.Lock{fresh.Lock(l), fresh.Locks([]api.Lock{oneLock, l})[1], fresh.Out(api.Out{Lock: l}).Lock} {
+			if !reflect.DeepEqual(x, want) {
+				t.Errorf("%s: %d, %q, %d, %d kids", name, x.Kind, x.Term, x.N, len(x.Kids))
+			}
+		}
+		if x := fresh.Lock(above); !reflect.DeepEqual(x, api.Lock{Kind: api.LAll, Kids: []api.Lock{{}}}) {
+			t.Errorf("%s in another one: %d, %d kids", name, x.Kind, len(x.Kids))
+		}
+	}
+}

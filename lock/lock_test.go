@@ -290,8 +290,10 @@ func TestP11_1WithinItself(t *testing.T) {
 				kids[i] = api.Lock{Kind: kind, Kids: kids}
 			}
 			l := api.Lock{Kind: kind, Kids: kids}
-			if s, e := Write(l); Right(l) || s != "" || e != api.ErrLock || len(Keys(l)) != 0 || Opens(l, opener(), "t1:m", 9, 9) {
-				t.Errorf("%d kids: taken", n)
+			for _, l := range []api.Lock{l, All(l), Any(After(0), l)} {
+				if s, e := Write(l); Right(l) || s != "" || e != api.ErrLock || len(Keys(l)) != 0 || Opens(l, opener(), "t1:m", 9, 9) {
+					t.Errorf("%d kids: taken", n)
+				}
 			}
 		}
 	}
