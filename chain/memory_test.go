@@ -7,16 +7,19 @@ import (
 	"slices"
 	"strings"
 	"testing"
+	"unsafe"
 
 	"sluiceway/api"
 	"sluiceway/lock"
 )
 
-// A place is where something lies in memory.
+// A place is where something lies in memory. It holds a pointer, not a number: what lies there must outlive the question, lest its memory be given to a later answer.
 type place struct {
-	from uintptr
+	from unsafe.Pointer
 	size uintptr
 }
+
+func (p place) start() uintptr { return uintptr(p.from) }
 
 // places are those of all texts and lists within a thing, of lists up to what they have room for.
 func places(v reflect.Value) []place {
@@ -24,11 +27,11 @@ func places(v reflect.Value) []place {
 	switch v.Kind() {
 	case reflect.String:
 		if v.Len() > 0 {
-			all = append(all, place{uintptr(v.UnsafePointer()), uintptr(v.Len())})
+			all = append(all, place{v.UnsafePointer(), uintptr(v.Len())})
 		}
 	case reflect.Slice:
 		if v.Cap() > 0 {
-			all = append(all, place{v.Pointer(), uintptr(v.Cap()) * v.Type().Elem().Size()})
+			all = append(all, place{v.UnsafePointer(), uintptr(v.Cap()) * v.Type().Elem().Size()})
 		}
 		for i := range v.Len() {
 			all = append(all, places(v.Index(i))...)
@@ -48,9 +51,9 @@ func apart(t *testing.T, what string, things ...any) {
 	for _, x := range things {
 		all = append(all, places(reflect.ValueOf(x))...)
 	}
-	slices.SortFunc(all, func(a, b place) int { return cmp.Compare(a.from, b.from) })
+	slices.SortFunc(all, func(a, b place) int { return cmp.Compare(a.start(), b.start()) })
 	for i := 1; i < len(all); i++ {
-		if all[i-1].from+all[i-1].size > all[i].from {
+		if all[i-1].start()+all[i-1].size > all[i].start() {
 			t.Fatalf("%s: memory is shared", what)
 		}
 	}

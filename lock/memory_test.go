@@ -1,6 +1,7 @@
 package lock
 
 import (
+	"cmp"
 	"math/rand"
 	"slices"
 	"strings"
@@ -10,14 +11,16 @@ import (
 	"sluiceway/api"
 )
 
-// A place is where something lies in memory.
+// A place is where something lies in memory. It holds a pointer, not a number: what lies there must outlive the question, lest its memory be given to a later answer.
 type place struct {
-	from uintptr
+	from unsafe.Pointer
 	size uintptr
 }
 
+func (p place) start() uintptr { return uintptr(p.from) }
+
 func placeOf[T any](first *T, n int) place {
-	return place{uintptr(unsafe.Pointer(first)), uintptr(n) * unsafe.Sizeof(*first)}
+	return place{unsafe.Pointer(first), uintptr(n) * unsafe.Sizeof(*first)}
 }
 
 // places are all places of a lock's lists, up to what they have room for, and of its terms.
@@ -51,9 +54,9 @@ func placesOf(l []api.Term) []place {
 // apart asks that no two of these places share a byte.
 func apart(t *testing.T, what string, all []place) {
 	t.Helper()
-	slices.SortFunc(all, func(a, b place) int { return int(int64(a.from) - int64(b.from)) })
+	slices.SortFunc(all, func(a, b place) int { return cmp.Compare(a.start(), b.start()) })
 	for i := 1; i < len(all); i++ {
-		if all[i-1].from+all[i-1].size > all[i].from {
+		if all[i-1].start()+all[i-1].size > all[i].start() {
 			t.Fatalf("%s: memory is shared", what)
 		}
 	}

@@ -12,11 +12,13 @@ import (
 	"sluiceway/lock"
 )
 
-// A place is where something lies in memory.
+// A place is where something lies in memory. It holds a pointer, not a number: what lies there must outlive the question, lest its memory be given to a later answer.
 type place struct {
-	from uintptr
+	from unsafe.Pointer
 	size uintptr
 }
+
+func (p place) start() uintptr { return uintptr(p.from) }
 
 // placesOfList is that of a list, up to what it has room for; placesOfText that of a text.
 func placesOfList[T any](l []T) []place {
@@ -24,14 +26,14 @@ func placesOfList[T any](l []T) []place {
 		return nil
 	}
 	first := unsafe.SliceData(l)
-	return []place{{uintptr(unsafe.Pointer(first)), uintptr(cap(l)) * unsafe.Sizeof(*first)}}
+	return []place{{unsafe.Pointer(first), uintptr(cap(l)) * unsafe.Sizeof(*first)}}
 }
 
 func placesOfText[T ~string](s T) []place {
 	if len(s) == 0 {
 		return nil
 	}
-	return []place{{uintptr(unsafe.Pointer(unsafe.StringData(string(s)))), uintptr(len(s))}}
+	return []place{{unsafe.Pointer(unsafe.StringData(string(s))), uintptr(len(s))}}
 }
 
 func placesOfLock(l api.Lock) []place {
@@ -68,9 +70,9 @@ func places(x api.Signed) []place {
 // apart asks that no two of these places share a byte.
 func apart(t *testing.T, what string, all []place) {
 	t.Helper()
-	slices.SortFunc(all, func(a, b place) int { return cmp.Compare(a.from, b.from) })
+	slices.SortFunc(all, func(a, b place) int { return cmp.Compare(a.start(), b.start()) })
 	for i := 1; i < len(all); i++ {
-		if all[i-1].from+all[i-1].size > all[i].from {
+		if all[i-1].start()+all[i-1].size > all[i].start() {
 			t.Fatalf("%s: memory is shared", what)
 		}
 	}

@@ -589,18 +589,21 @@ func TestP8_4DecodeOnlyReads(t *testing.T) {
 	}
 }
 
-// A span is where in memory something lies.
-type span struct{ from, to uintptr }
+// A span is where in memory something lies. It holds a pointer, not a number: what lies there must outlive the question, lest its memory be given to a later answer.
+type span struct {
+	from unsafe.Pointer
+	size uintptr
+}
+
+func (s span) start() uintptr { return uintptr(s.from) }
 
 func textSpan(s string) span {
-	p := uintptr(unsafe.Pointer(unsafe.StringData(s)))
-	return span{p, p + uintptr(len(s))}
+	return span{unsafe.Pointer(unsafe.StringData(s)), uintptr(len(s))}
 }
 
 func listSpan[E any](l []E) span {
 	var one E
-	p := uintptr(unsafe.Pointer(unsafe.SliceData(l)))
-	return span{p, p + uintptr(cap(l))*unsafe.Sizeof(one)}
+	return span{unsafe.Pointer(unsafe.SliceData(l)), uintptr(cap(l)) * unsafe.Sizeof(one)}
 }
 
 // spans are all places of a message's memory, what lies behind lengths with them.
@@ -619,7 +622,7 @@ func spans(m api.Msg) []span {
 func apart(l []span) bool {
 	for i, a := range l {
 		for _, b := range l[:i] {
-			if max(a.from, b.from) < min(a.to, b.to) {
+			if max(a.start(), b.start()) < min(a.start()+a.size, b.start()+b.size) {
 				return false
 			}
 		}
